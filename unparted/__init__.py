@@ -1,0 +1,1 @@
+"""Polynomials that can't be parted."""
