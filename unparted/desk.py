@@ -1,6 +1,6 @@
 """The calls: each is by itself, and answers a list of whole numbers; a refusal is one number below 0, alone."""
 
-from unparted.polygon import count_divisions, is_prime
+from unparted.polygon import count_divisions, find_corners, find_points, is_prime
 
 
 def height(p, z):
@@ -11,3 +11,29 @@ def height(p, z):
     if z == 0:
         return [-5]
     return [count_divisions(p, z)]
+
+
+def refuse_polynomial(n, p, f):
+    """Answer what a call with a polynomial f of degree n and a prime p is refused with, or 0 if it isn't."""
+    # f is empty where n is out of its range, so n is looked at before f.
+    if n < 1 or n > 24:
+        return -2
+    if f[0] == 0 or f[n] == 0 or not is_prime(p):
+        return -3
+    return 0
+
+
+def corners(n, p, f):
+    """Answer how many corners there are, then of each, from the first on, its place and its height.
+
+    Refused with -2 if n isn't from 1 to 24, with -3 if f's first number or its last is 0 or p is no prime below 65536.
+    """
+    refusal = refuse_polynomial(n, p, f)
+    if refusal < 0:
+        return [refusal]
+    found = find_corners(find_points(p, f))
+    answer = [len(found)]
+    for corner in found:
+        answer.append(corner[0])
+        answer.append(corner[1])
+    return answer

@@ -1,4 +1,4 @@
-"""Primes and heights: what the calls of desk.py are reckoned from."""
+"""Primes, heights, points and corners: what the calls of desk.py are reckoned from."""
 
 
 def is_prime(p):
@@ -21,3 +21,43 @@ def count_divisions(p, z):
         rest = rest // p
         times += 1
     return times
+
+
+def find_points(p, f):
+    """Answer the points over f's numbers that aren't 0, from the left, each as its place and its height."""
+    points = []
+    for place in range(len(f)):
+        if f[place] != 0:
+            points.append((place, count_divisions(p, f[place])))
+    return points
+
+
+def compare_rises(corner, point, other):
+    """Answer below 0, 0 or above 0 as the way from corner to point is flatter than, as flat as, steeper than to other.
+
+    Both stand to the right of the corner.
+    """
+    # Both runs are above 0: the quotients stand to each other as these products do, which stay whole.
+    rise = (point[1] - corner[1]) * (other[0] - corner[0])
+    other_rise = (other[1] - corner[1]) * (point[0] - corner[0])
+    return rise - other_rise
+
+
+def find_next_corner(points, at):
+    """Answer which of the points is the next corner from the one at the index `at`, which isn't the last."""
+    best = at + 1
+    for k in range(at + 2, len(points)):
+        # Of several that are equally flat the farthest counts, so a later one takes a tie.
+        if compare_rises(points[at], points[k], points[best]) <= 0:
+            best = k
+    return best
+
+
+def find_corners(points):
+    """Answer those of the points that are corners, from the first to the last."""
+    at = 0
+    found = [points[at]]
+    while at < len(points) - 1:
+        at = find_next_corner(points, at)
+        found.append(points[at])
+    return found
