@@ -1,6 +1,6 @@
 """The calls: each is by itself, and answers a list of whole numbers; a refusal is one number below 0, alone."""
 
-from unparted.polygon import count_divisions, find_corners, find_points, is_prime
+from unparted.polygon import count_divisions, find_corners, find_pieces, find_points, is_prime
 
 
 def height(p, z):
@@ -37,3 +37,15 @@ def corners(n, p, f):
         answer.append(corner[0])
         answer.append(corner[1])
     return answer
+
+
+def pieces(n, p, f):
+    """Answer how many pieces there are, then their lengths, from the first corner on.
+
+    Refused with -2 if n isn't from 1 to 24, with -3 if f's first number or its last is 0 or p is no prime below 65536.
+    """
+    refusal = refuse_polynomial(n, p, f)
+    if refusal < 0:
+        return [refusal]
+    lengths = find_pieces(find_corners(find_points(p, f)))
+    return [len(lengths)] + lengths

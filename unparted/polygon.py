@@ -1,4 +1,4 @@
-"""Primes, heights, points and corners: what the calls of desk.py are reckoned from."""
+"""Primes, heights, points, corners and pieces: what the calls of desk.py are reckoned from."""
 
 
 def is_prime(p):
@@ -61,3 +61,27 @@ def find_corners(points):
         at = find_next_corner(points, at)
         found.append(points[at])
     return found
+
+
+def find_common_divisor(a, b):
+    """Answer the greatest common divisor of a and b, which aren't below 0 and aren't both 0."""
+    divisor = a
+    rest = b
+    while rest != 0:
+        left = divisor % rest
+        divisor = rest
+        rest = left
+    return divisor
+
+
+def find_pieces(found):
+    """Answer the lengths of the pieces between the corners found, from the first corner on."""
+    lengths = []
+    for k in range(1, len(found)):
+        run = found[k][0] - found[k - 1][0]
+        # A rise below 0 has the divisors of the same rise above 0; where it is 0, every divisor of the run is common.
+        rise = abs(found[k][1] - found[k - 1][1])
+        many = find_common_divisor(rise, run)
+        for piece in range(many):
+            lengths.append(run // many)
+    return lengths
