@@ -1,6 +1,6 @@
 """The calls: each is by itself, and answers a list of whole numbers; a refusal is one number below 0, alone."""
 
-from unparted.polygon import count_divisions, find_corners, find_pieces, find_points, is_prime
+from unparted.polygon import count_divisions, find_corners, find_pieces, find_points, is_prime, mark_degrees
 
 
 def height(p, z):
@@ -49,3 +49,14 @@ def pieces(n, p, f):
         return [refusal]
     lengths = find_pieces(find_corners(find_points(p, f)))
     return [len(lengths)] + lengths
+
+
+def parts(n, p, f):
+    """Answer the number whose bit d, d from 0 to n, is 1 if some of the pieces (none, or all, too) are d long together.
+
+    Refused with -2 if n isn't from 1 to 24, with -3 if f's first number or its last is 0 or p is no prime below 65536.
+    """
+    refusal = refuse_polynomial(n, p, f)
+    if refusal < 0:
+        return [refusal]
+    return [mark_degrees(find_pieces(find_corners(find_points(p, f))))]

@@ -85,3 +85,13 @@ def find_pieces(found):
         for piece in range(many):
             lengths.append(run // many)
     return lengths
+
+
+def mark_degrees(lengths):
+    """Answer the number whose bit d is 1 if some of the lengths (none, or all, too) are d together."""
+    # Without any length nothing but 0 is reached.
+    marks = 1
+    for length in lengths:
+        # Whatever was reached without this length is reached with it too, as much farther as it is long.
+        marks = marks | (marks << length)
+    return marks
