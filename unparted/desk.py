@@ -1,5 +1,6 @@
 """The calls: each is by itself, and answers a list of whole numbers; a refusal is one number below 0, alone."""
 
+from unparted.family import list_quotients
 from unparted.polygon import count_divisions, find_corners, find_pieces, find_points, is_prime, mark_degrees
 
 
@@ -60,3 +61,13 @@ def parts(n, p, f):
     if refusal < 0:
         return [refusal]
     return [mark_degrees(find_pieces(find_corners(find_points(p, f))))]
+
+
+def expo(n):
+    """Answer 0, then n + 1 numbers: number k, from 0 to n, is 1 times 2 up to n, by 1 times 2 up to k.
+
+    Refused with -2 if n isn't from 0 to 20.
+    """
+    if n < 0 or n > 20:
+        return [-2]
+    return [0] + list_quotients(n)
