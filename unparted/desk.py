@@ -1,6 +1,6 @@
 """The calls: each is by itself, and answers a list of whole numbers; a refusal is one number below 0, alone."""
 
-from unparted.family import list_quotients
+from unparted.family import list_alternating, list_quotients
 from unparted.polygon import count_divisions, find_corners, find_pieces, find_points, is_prime, mark_degrees
 
 
@@ -71,3 +71,13 @@ def expo(n):
     if n < 0 or n > 20:
         return [-2]
     return [0] + list_quotients(n)
+
+
+def laguerre(n):
+    """Answer 0, then n + 1 numbers: number k, from 0 to n, is expo's times n over k, below 0 where k is odd.
+
+    Refused with -2 if n isn't from 0 to 18.
+    """
+    if n < 0 or n > 18:
+        return [-2]
+    return [0] + list_alternating(n)
